@@ -313,17 +313,24 @@ func (all *courses) counts(day int64) []int64 {
 	return counts
 }
 
-// daysOfSummonses returns the days at both ends and those around all days at which something changes.
-func daysOfSummonses(list []impl.Summons) []int64 {
+// daysBeside returns days, those beside them, and those at both ends.
+func daysBeside(some []int64) []int64 {
 	days := []int64{0, 1, 2, 10000, lastDay - 2, lastDay - 1, lastDay}
-	for _, s := range list {
-		for _, day := range []int64{s.Sent, s.Due, s.Answered, s.Due + 1, s.Due + 14, s.Due + 15, s.Due + 28, s.Due + 29, s.Due + 42, s.Due + 43, s.Due + 57} {
-			days = append(days, day-1, day, day+1)
-		}
+	for _, day := range some {
+		days = append(days, day-1, day, day+1)
 	}
 	slices.Sort(days)
 	days = slices.Compact(days)
 	return slices.DeleteFunc(days, func(day int64) bool { return day < 0 || day > lastDay })
+}
+
+// daysOfSummonses returns the days at both ends and those around all days at which something changes.
+func daysOfSummonses(list []impl.Summons) []int64 {
+	var days []int64
+	for _, s := range list {
+		days = append(days, s.Sent, s.Due, s.Answered, s.Due+1, s.Due+14, s.Due+15, s.Due+28, s.Due+29, s.Due+42, s.Due+43, s.Due+57)
+	}
+	return daysBeside(days)
 }
 
 func checkOpen(t *testing.T, what string, list []impl.Summons, day int64, want []int64) {
@@ -571,14 +578,23 @@ func TestSendSummons(t *testing.T) {
 	}
 }
 
-// numbersAround returns the numbers of a list, those beside them, and the ends.
-func numbersAround(list []impl.Summons) []int64 {
+// numbersBeside returns numbers, those beside them, and the ends.
+func numbersBeside(some []int64) []int64 {
 	numbers := []int64{math.MinInt64, -1, 0, 1, 1000000, 1000001, math.MaxInt64}
-	for _, s := range list {
-		numbers = append(numbers, s.Number-1, s.Number, s.Number+1)
+	for _, number := range some {
+		numbers = append(numbers, number-1, number, number+1)
 	}
 	slices.Sort(numbers)
 	return slices.Compact(numbers)
+}
+
+// numbersAround returns the numbers of a list, those beside them, and the ends.
+func numbersAround(list []impl.Summons) []int64 {
+	var numbers []int64
+	for _, s := range list {
+		numbers = append(numbers, s.Number)
+	}
+	return numbersBeside(numbers)
 }
 
 func TestSendSummonsToAllLists(t *testing.T) {
