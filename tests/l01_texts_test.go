@@ -51,6 +51,45 @@ func neighbours(s string) []string {
 	return texts
 }
 
+// checkWhichAre checks that a function takes all good values and no bad one, as an independent check does.
+func checkWhichAre[X any](t *testing.T, what string, is, isRight func(X) bool, good, bad map[string]X) {
+	t.Helper()
+	for name, x := range good {
+		if !isRight(x) {
+			t.Fatalf("%s: the test's value for %s is none: %v", name, what, x)
+		}
+		if !is(x) {
+			t.Errorf("%s: %s of %v is false", name, what, x)
+		}
+	}
+	for name, x := range bad {
+		if isRight(x) {
+			t.Fatalf("%s: the test's value against %s is one: %v", name, what, x)
+		}
+		if is(x) {
+			t.Errorf("%s: %s is true", name, what)
+		}
+	}
+}
+
+// textFunctions write and read the texts of one kind of values, and compare the values.
+type textFunctions[X any] struct {
+	write func(X) (string, int64)
+	read  func(string) (X, int64)
+	equal func(a, b X) bool
+}
+
+// check checks that a value is written as a text and recovered from it.
+func (f textFunctions[X]) check(t *testing.T, what string, x X, text string) {
+	t.Helper()
+	if got, code := f.write(x); got != text || code != impl.ErrNone {
+		t.Errorf("%s: the text of %v is %q, %d, want %q", what, x, got, code, text)
+	}
+	if got, code := f.read(text); !f.equal(got, x) || code != impl.ErrNone {
+		t.Errorf("%s: %q is read as %v, %d, want %v", what, text, got, code, x)
+	}
+}
+
 func TestConstants1(t *testing.T) {
 	got := []int64{impl.ErrNone, impl.ErrInvalid, impl.ErrRange, impl.ErrLimit, impl.ErrNotFound, impl.ErrState, impl.ErrSyntax, impl.MaxValue, impl.MaxWord, impl.MaxList}
 	want := []int64{0, 1, 2, 3, 4, 5, 6, 1000000000000, 16, 60}

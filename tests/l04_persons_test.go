@@ -536,13 +536,9 @@ func TestPersonText(t *testing.T) {
 		{"1000000/abcdefghijklmnop/zzzzzzzzzzzzzzzz/2100/99", impl.Person{Number: 1000000, First: "abcdefghijklmnop", Last: "zzzzzzzzzzzzzzzz", Born: 2100, Zone: 99}},
 		{"100/z/a/2000/10", impl.Person{Number: 100, First: "z", Last: "a", Born: 2000, Zone: 10}},
 	}
+	functions := textFunctions[impl.Person]{impl.PersonText, impl.ReadPerson, func(a, b impl.Person) bool { return a == b }}
 	for _, c := range cases {
-		if text, code := impl.PersonText(c.p); text != c.text || code != impl.ErrNone {
-			t.Errorf("PersonText of %v is %q, %d, want %q", c.p, text, code, c.text)
-		}
-		if p, code := impl.ReadPerson(c.text); p != c.p || code != impl.ErrNone {
-			t.Errorf("ReadPerson of %q is %v, %d, want %v", c.text, p, code, c.p)
-		}
+		functions.check(t, "a case", c.p, c.text)
 	}
 	for _, no := range noPersons() {
 		if text, code := impl.PersonText(no); text != "" || code != impl.ErrInvalid {

@@ -242,22 +242,7 @@ func TestConstants8(t *testing.T) {
 }
 
 func TestIsPool(t *testing.T) {
-	for name, p := range goodPools() {
-		if !isPoolBySets(p) {
-			t.Fatalf("%s: the test's pool is none: %v", name, p)
-		}
-		if !impl.IsPool(p) {
-			t.Errorf("%s: IsPool of %v is false", name, p)
-		}
-	}
-	for name, p := range badPools() {
-		if isPoolBySets(p) {
-			t.Fatalf("%s: the test's pool is one: %v", name, p)
-		}
-		if impl.IsPool(p) {
-			t.Errorf("%s: IsPool is true", name)
-		}
-	}
+	checkWhichAre(t, "IsPool", impl.IsPool, isPoolBySets, goodPools(), badPools())
 }
 
 // All pools with at most three Numbers and at most four Drawn, in small ranges.
@@ -528,6 +513,10 @@ func TestChanceOf(t *testing.T) {
 	}
 }
 
+func poolTexts() textFunctions[impl.Pool] {
+	return textFunctions[impl.Pool]{impl.PoolText, impl.ReadPool, equalPools}
+}
+
 func TestPoolText(t *testing.T) {
 	cases := []struct {
 		text string
@@ -543,12 +532,7 @@ func TestPoolText(t *testing.T) {
 		{"10,20,100/-/2000000000", pool([]int64{10, 20, 100}, nil, 2000000000)},
 	}
 	for _, c := range cases {
-		if text, code := impl.PoolText(c.p); text != c.text || code != impl.ErrNone {
-			t.Errorf("PoolText of %v is %q, %d, want %q", c.p, text, code, c.text)
-		}
-		if p, code := impl.ReadPool(c.text); !equalPools(p, c.p) || code != impl.ErrNone {
-			t.Errorf("ReadPool of %q is %v, %d, want %v", c.text, p, code, c.p)
-		}
+		poolTexts().check(t, "a case", c.p, c.text)
 	}
 	for name, p := range badPools() {
 		if text, code := impl.PoolText(p); text != "" || code != impl.ErrInvalid {
@@ -559,19 +543,8 @@ func TestPoolText(t *testing.T) {
 
 // The promise P1 for pools: a pool is recovered from its text.
 func TestPoolsAreRecovered(t *testing.T) {
-	texts := map[string]impl.Pool{}
 	for name, p := range goodPools() {
-		text, code := impl.PoolText(p)
-		if want := plainText(p); text != want || code != impl.ErrNone {
-			t.Errorf("%s: PoolText is %q, %d, want %q", name, text, code, want)
-		}
-		if before, known := texts[text]; known && !equalPools(before, p) {
-			t.Errorf("%v and %v have the text %q", before, p, text)
-		}
-		texts[text] = p
-		if got, code := impl.ReadPool(text); !equalPools(got, p) || code != impl.ErrNone {
-			t.Errorf("%s: ReadPool of %q is %v, %d", name, text, got, code)
-		}
+		poolTexts().check(t, name, p, plainText(p))
 	}
 	for name, p := range badPools() {
 		if len(p.Drawn) <= 100 {

@@ -451,22 +451,7 @@ func TestConstants9(t *testing.T) {
 }
 
 func TestAreSummonses(t *testing.T) {
-	for name, list := range goodSummonses() {
-		if !areRightSummonses(list) {
-			t.Fatalf("%s: the test's list is no list of summonses: %v", name, list)
-		}
-		if !impl.AreSummonses(list) {
-			t.Errorf("%s: AreSummonses of %v is false", name, list)
-		}
-	}
-	for name, list := range badSummonses() {
-		if areRightSummonses(list) {
-			t.Fatalf("%s: the test's list is one of summonses: %v", name, list)
-		}
-		if impl.AreSummonses(list) {
-			t.Errorf("%s: AreSummonses of %v is true", name, list)
-		}
-	}
+	checkWhichAre(t, "AreSummonses", impl.AreSummonses, areRightSummonses, goodSummonses(), badSummonses())
 }
 
 // All summonses whose fields are at their limits, one before or one behind.

@@ -428,22 +428,7 @@ func TestConstants10(t *testing.T) {
 }
 
 func TestAreCalls(t *testing.T) {
-	for name, list := range goodCalls() {
-		if !areRightCalls(list) {
-			t.Fatalf("%s: the test's list is no list of calls: %v", name, list)
-		}
-		if !impl.AreCalls(list) {
-			t.Errorf("%s: AreCalls of %v is false", name, list)
-		}
-	}
-	for name, list := range badCalls() {
-		if areRightCalls(list) {
-			t.Fatalf("%s: the test's list is one of calls: %v", name, list)
-		}
-		if impl.AreCalls(list) {
-			t.Errorf("%s: AreCalls of %v is true", name, list)
-		}
-	}
+	checkWhichAre(t, "AreCalls", impl.AreCalls, areRightCalls, goodCalls(), badCalls())
 }
 
 // All calls whose fields are at their limits, one before or one behind.
